@@ -247,6 +247,33 @@ func TestWaveLoudest(t *testing.T) {
 	holdLoudest(t, "a long list", list, loudestBig(list))
 }
 
+// loudestByBin goes by what Bin answers at each step.
+func loudestByBin(list []int) int {
+	loudest, most := 0, -1
+	for step := range 129 {
+		if x, y, _ := impl.Bin(list, step); x*x+y*y > most {
+			loudest, most = step, x*x+y*y
+		}
+	}
+	return loudest
+}
+
+// A single sample is nearly as loud at every step, so that the least difference between the cosines of Loudest and those of Bin is to be seen.
+func TestWaveLoudestGoesByBins(t *testing.T) {
+	g := formSource(715)
+	for at := 0; at < 256; at += 5 {
+		list := make([]int, at+1)
+		for _, sample := range []int{maxTap, -maxTap, g.within(maxTap)} {
+			list[at] = sample
+			holdLoudest(t, "a single sample", list, loudestByBin(list))
+		}
+	}
+	for range 20 {
+		list := g.signal(maxTap, 1+int(g.next()%100))
+		holdLoudest(t, "a list", list, loudestByBin(list))
+	}
+}
+
 func TestWaveLoudestThatIsNone(t *testing.T) {
 	for _, list := range noSignals() {
 		noLoudest(t, "no signal", list)
