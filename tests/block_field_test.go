@@ -81,6 +81,17 @@ func TestBlockInversesOfAllNumbers(t *testing.T) {
 	}
 }
 
+// What GfInv looks up is what products alone come to: the power 254, behind which 1 comes.
+func TestBlockInversesArePowers(t *testing.T) {
+	for a := range 256 {
+		power := 1
+		for range 254 {
+			power = impl.GfMul(power, a)
+		}
+		holdInt(t, "GfInv", impl.GfInv(a), power, a)
+	}
+}
+
 func TestBlockFieldOfWrongNumbers(t *testing.T) {
 	for _, bad := range noFieldNumbers {
 		for good := range 256 {

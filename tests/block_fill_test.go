@@ -56,6 +56,17 @@ func TestBlockFillOfOnePlace(t *testing.T) {
 	})
 }
 
+// Two places beside each other from the front to the end, and each place beside the last one: among what these fillings divide by is every number of the field but 0.
+func TestBlockFillOfAllPairsWithTheLast(t *testing.T) {
+	g := formSource(1438)
+	word := codeSlow(g.bytes(maxBlock-2), 1)
+	for place := range maxBlock - 1 {
+		for _, gone := range [][]int{{place, maxBlock - 1}, {place, place + 1}} {
+			fillsTo(t, g.hurt(word, gone), gone, 1, word)
+		}
+	}
+}
+
 // Places that are told as gone and were not hurt stay what they were.
 func TestBlockFillOfPlacesNotHurt(t *testing.T) {
 	manyCodes(1433, func(g *formSource, word []byte, mend int) {
